@@ -35,19 +35,19 @@ func listed(w []api.Content) []api.Content {
 	return w
 }
 
-// do does a request; with an error it tells whether that was so ahead of all sectors.
-func (m *meant) do(r api.Request) (data []byte, e api.Errno, ahead bool) {
+// do does a request.
+func (m *meant) do(r api.Request) (data []byte, e api.Errno) {
 	exported := m.stack.Parts[m.stack.Export]
 	writes := r.Cmd == api.Store || r.Cmd == api.Trim || r.Cmd == api.Zeroes
 	switch {
 	case r.Cmd == api.Flush:
-		return nil, api.OK, false
+		return nil, api.OK
 	case !writes && r.Cmd != api.Read, r.N < 0, r.N > 16, r.At < 0, r.At > exported.Size, r.At+r.N > exported.Size:
-		return nil, api.ErrArg, true
+		return nil, api.ErrArg
 	case r.Cmd == api.Store && len(r.Data) != 64*r.N:
-		return nil, api.ErrArg, true
+		return nil, api.ErrArg
 	case writes && m.stack.ReadOnly:
-		return nil, api.ErrPerm, true
+		return nil, api.ErrPerm
 	}
 	before := m.world
 	m.world = listed(m.world)
@@ -70,7 +70,7 @@ func (m *meant) do(r api.Request) (data []byte, e api.Errno, ahead bool) {
 	if e != api.OK {
 		m.world, data = before, nil
 	}
-	return data, e, false
+	return data, e
 }
 
 // get is a sector of a node that is read.
@@ -447,16 +447,10 @@ func asMeant(t *testing.T, s api.Stack, w []api.Content, r api.Request) ([]api.C
 	t.Helper()
 	m := &meant{stack: s, world: w}
 	worldHeld, dataHeld := copied(w), bytes.Clone(r.Data)
-	want, wantErr, ahead := m.do(r)
+	want, wantErr := m.do(r)
 	behind, b, e := Do(s, w, r)
 	if e != wantErr || !bytes.Equal(b, want) {
 		t.Fatalf("%v of %d from %d on: %d bytes, %v; want %d bytes, %v\nstack %v", r.Cmd, r.N, r.At, len(b), e, len(want), wantErr, s)
-	}
-	if ahead {
-		if len(behind) != 0 {
-			t.Fatalf("%v of %d from %d on: a world beside %v", r.Cmd, r.N, r.At, e)
-		}
-		behind = w
 	}
 	if at := differ(behind, m.world); at != "" {
 		t.Fatalf("%v of %d from %d on: %v, and the world is not the one that is meant: %s\nstack %v", r.Cmd, r.N, r.At, e, at, s)

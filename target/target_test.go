@@ -164,33 +164,19 @@ func told(t *testing.T, s api.Stack, w []api.Content, at int, want []byte) {
 	}
 }
 
-// fails asks that a request fails at one of its sectors: the world is as it was, and nothing is read.
+// fails asks that a request fails, ahead of its sectors or at one of them: the world is as it was, and nothing is read.
 func fails(t *testing.T, s api.Stack, w []api.Content, r api.Request, want api.Errno) {
 	t.Helper()
 	held := copied(w)
 	behind, b, e := Do(s, w, r)
 	if e != want || len(b) != 0 {
-		t.Fatalf("%v of %d from %d on: %d bytes, %v; want none, %v", r.Cmd, r.N, r.At, len(b), e, want)
+		t.Fatalf("%v of %d from %d on, with %d bytes: %d bytes, %v; want none, %v", r.Cmd, r.N, r.At, len(r.Data), len(b), e, want)
 	}
 	if at := differ(behind, held); at != "" {
-		t.Fatalf("%v of %d from %d on: %v, and the world is told as another one: %s", r.Cmd, r.N, r.At, e, at)
+		t.Fatalf("%v of %d from %d on, with %d bytes: %v, and the world is told as another one: %s", r.Cmd, r.N, r.At, len(r.Data), e, at)
 	}
 	if at := differ(w, held); at != "" {
-		t.Fatalf("%v of %d from %d on: %v, and the world was changed: %s", r.Cmd, r.N, r.At, e, at)
-	}
-}
-
-// refuses asks that a request is not begun: nothing is told but the error.
-func refuses(t *testing.T, s api.Stack, w []api.Content, r api.Request, want api.Errno) {
-	t.Helper()
-	held := copied(w)
-	behind, b, e := Do(s, w, r)
-	if e != want || len(b) != 0 || len(behind) != 0 {
-		t.Fatalf("%v of %d from %d on, with %d bytes: %d devices, %d bytes, %v; want none, none, %v",
-			r.Cmd, r.N, r.At, len(r.Data), len(behind), len(b), e, want)
-	}
-	if at := differ(w, held); at != "" {
-		t.Fatalf("%v of %d from %d on: %v, and the world was changed: %s", r.Cmd, r.N, r.At, e, at)
+		t.Fatalf("%v of %d from %d on, with %d bytes: %v, and the world was changed: %s", r.Cmd, r.N, r.At, len(r.Data), e, at)
 	}
 }
 
@@ -258,7 +244,7 @@ func TestCommands(t *testing.T) {
 			told(t, s, w, at, content[64*at:64*at+64*16])
 		}
 		if s.ReadOnly {
-			refuses(t, s, w, store(3, sectors(4, 2)), api.ErrPerm)
+			fails(t, s, w, store(3, sectors(4, 2)), api.ErrPerm)
 			continue
 		}
 		after, _ := asMeant(t, s, w, store(2, sectors(7, 2)))
@@ -297,12 +283,12 @@ func TestExamples(t *testing.T) {
 	s = stackOf(t, "device a 4; journal j 256; volume v = linear(a, 1, 3); export v;")
 	w, _ = done(t, s, noughts(s), store(0, one))
 	holds(t, w, 0, 1, one)
-	refuses(t, s, w, read(2, 2), api.ErrArg)
+	fails(t, s, w, read(2, 2), api.ErrArg)
 
 	s = stackOf(t, "device a 10; journal j 256; key k $"+kHex+"; volume v = integrity(a, k); export v;")
 	w = noughts(s)
 	fails(t, s, w, read(7, 1), api.ErrIO)
-	refuses(t, s, w, read(8, 1), api.ErrArg)
+	fails(t, s, w, read(8, 1), api.ErrArg)
 	w, _ = done(t, s, w, store(7, one))
 	told(t, s, w, 7, one)
 	fails(t, s, turned(w, 0, 7, 30), read(7, 1), api.ErrIO)
@@ -313,7 +299,7 @@ func TestExamples(t *testing.T) {
 	fails(t, s, w, store(2, one), api.ErrSpace)
 
 	s = stackOf(t, "device a 4; journal j 256; export a readonly;")
-	refuses(t, s, noughts(s), store(0, one), api.ErrPerm)
+	fails(t, s, noughts(s), store(0, one), api.ErrPerm)
 }
 
 // P14.1 (V1): where the sectors of a Disk, a Linear and a Concat lie.
@@ -382,26 +368,26 @@ func TestWrongRequests(t *testing.T) {
 	wrong := []int{math.MinInt, math.MinInt + 1, math.MinInt + 49, -1 << 32, -17, -16, -2, -1, 17, 18, 50, 51, 64, 1 << 32, 1 << 58, 1<<58 + 1, math.MaxInt - 49, math.MaxInt - 1, math.MaxInt}
 	for _, cmd := range []api.Cmd{2, 5, 7, 8, 100, -1, -2, 1 << 32, 1<<32 + 1, math.MinInt, math.MaxInt} {
 		for _, n := range []int{0, 1} {
-			refuses(t, s, w, api.Request{Cmd: cmd, N: n, Data: content[:64*n]}, api.ErrArg)
+			fails(t, s, w, api.Request{Cmd: cmd, N: n, Data: content[:64*n]}, api.ErrArg)
 		}
 	}
 	for _, cmd := range []api.Cmd{api.Read, api.Store, api.Trim, api.Zeroes} {
 		for _, n := range wrong {
 			for _, data := range [][]byte{nil, sectors(max(0, min(n, 64)), 1)} {
-				refuses(t, s, w, api.Request{Cmd: cmd, At: 0, N: n, Data: data}, api.ErrArg)
-				refuses(t, s, w, api.Request{Cmd: cmd, At: 49, N: n, Data: data}, api.ErrArg)
-				refuses(t, s, w, api.Request{Cmd: cmd, At: n, N: n, Data: data}, api.ErrArg)
+				fails(t, s, w, api.Request{Cmd: cmd, At: 0, N: n, Data: data}, api.ErrArg)
+				fails(t, s, w, api.Request{Cmd: cmd, At: 49, N: n, Data: data}, api.ErrArg)
+				fails(t, s, w, api.Request{Cmd: cmd, At: n, N: n, Data: data}, api.ErrArg)
 			}
 			if n < 0 || n > 50 {
-				refuses(t, s, w, api.Request{Cmd: cmd, At: n, N: 1, Data: content[:64]}, api.ErrArg)
-				refuses(t, s, w, api.Request{Cmd: cmd, At: n, N: 0}, api.ErrArg)
+				fails(t, s, w, api.Request{Cmd: cmd, At: n, N: 1, Data: content[:64]}, api.ErrArg)
+				fails(t, s, w, api.Request{Cmd: cmd, At: n, N: 0}, api.ErrArg)
 			}
 		}
 		for n := range 17 {
 			r := api.Request{Cmd: cmd, At: 50 - n, N: n, Data: sectors(n, 2)}
 			done(t, s, w, r)
 			r.At++
-			refuses(t, s, w, r, api.ErrArg)
+			fails(t, s, w, r, api.ErrArg)
 		}
 	}
 }
@@ -412,7 +398,7 @@ func TestWrongData(t *testing.T) {
 	for _, n := range []int{0, 1, 2, 15, 16} {
 		for _, length := range []int{64*n - 64, 64*n - 1, 64*n + 1, 64*n + 64, n} {
 			if length >= 0 && length != 64*n {
-				refuses(t, s, w, api.Request{Cmd: api.Store, At: 1, N: n, Data: content[:length]}, api.ErrArg)
+				fails(t, s, w, api.Request{Cmd: api.Store, At: 1, N: n, Data: content[:length]}, api.ErrArg)
 			}
 		}
 		after, _ := done(t, s, w, api.Request{Cmd: api.Store, At: 1, N: n, Data: sectors(n, 7)})
@@ -433,16 +419,16 @@ func TestHowMany(t *testing.T) {
 			for _, at := range []int{0, 1, size - 1, size} {
 				r := api.Request{Cmd: cmd, At: at}
 				if s.ReadOnly && cmd != api.Read {
-					refuses(t, s, all, r, api.ErrPerm)
+					fails(t, s, all, r, api.ErrPerm)
 					continue
 				}
 				if after, b := done(t, s, all, r); len(b) != 0 || differ(after, all) != "" {
 					t.Errorf("%s: %v of no sector: %d bytes, %s", expr, cmd, len(b), differ(after, all))
 				}
 			}
-			refuses(t, s, w, api.Request{Cmd: cmd, At: 0, N: 17, Data: sectors(17, 1)}, api.ErrArg)
-			refuses(t, s, w, api.Request{Cmd: cmd, At: size, N: 1, Data: sectors(1, 1)}, api.ErrArg)
-			refuses(t, s, w, api.Request{Cmd: cmd, At: size - 15, N: 16, Data: sectors(16, 1)}, api.ErrArg)
+			fails(t, s, w, api.Request{Cmd: cmd, At: 0, N: 17, Data: sectors(17, 1)}, api.ErrArg)
+			fails(t, s, w, api.Request{Cmd: cmd, At: size, N: 1, Data: sectors(1, 1)}, api.ErrArg)
+			fails(t, s, w, api.Request{Cmd: cmd, At: size - 15, N: 16, Data: sectors(16, 1)}, api.ErrArg)
 			asMeant(t, s, w, api.Request{Cmd: cmd, At: size - 16, N: 16, Data: sectors(16, 1)})
 			asMeant(t, s, w, api.Request{Cmd: cmd, At: 0, N: 16, Data: sectors(16, 1)})
 			asMeant(t, s, w, api.Request{Cmd: cmd, At: size - 1, N: 1, Data: sectors(1, 1)})
@@ -466,14 +452,14 @@ func TestReadOnly(t *testing.T) {
 		told(t, s, w, 1, content[64:64*5])
 		done(t, s, w, api.Request{Cmd: api.Flush})
 		for _, cmd := range []api.Cmd{api.Store, api.Trim, api.Zeroes} {
-			refuses(t, s, w, api.Request{Cmd: cmd, At: 1, N: 2, Data: sectors(2, 1)}, api.ErrPerm)
-			refuses(t, s, w, api.Request{Cmd: cmd, At: 1, N: 0}, api.ErrPerm)
-			refuses(t, s, dead(w, 0, 1), api.Request{Cmd: cmd, At: 1, N: 1, Data: sectors(1, 1)}, api.ErrPerm)
-			refuses(t, s, w, api.Request{Cmd: cmd, At: 1, N: 17, Data: sectors(17, 1)}, api.ErrArg)
-			refuses(t, s, w, api.Request{Cmd: cmd, At: -1, N: 1, Data: sectors(1, 1)}, api.ErrArg)
+			fails(t, s, w, api.Request{Cmd: cmd, At: 1, N: 2, Data: sectors(2, 1)}, api.ErrPerm)
+			fails(t, s, w, api.Request{Cmd: cmd, At: 1, N: 0}, api.ErrPerm)
+			fails(t, s, dead(w, 0, 1), api.Request{Cmd: cmd, At: 1, N: 1, Data: sectors(1, 1)}, api.ErrPerm)
+			fails(t, s, w, api.Request{Cmd: cmd, At: 1, N: 17, Data: sectors(17, 1)}, api.ErrArg)
+			fails(t, s, w, api.Request{Cmd: cmd, At: -1, N: 1, Data: sectors(1, 1)}, api.ErrArg)
 		}
-		refuses(t, s, w, api.Request{Cmd: api.Store, At: 1, N: 1, Data: sectors(2, 1)}, api.ErrArg)
-		refuses(t, s, w, api.Request{Cmd: api.Disc}, api.ErrArg)
+		fails(t, s, w, api.Request{Cmd: api.Store, At: 1, N: 1, Data: sectors(2, 1)}, api.ErrArg)
+		fails(t, s, w, api.Request{Cmd: api.Disc}, api.ErrArg)
 	}
 	s, w, _ := laid(t, over("snapshot(verity(a, r), b, 2)"), 8)
 	done(t, s, w, store(3, sectors(1, 1))) // its origin is, it is not
@@ -1162,6 +1148,58 @@ func TestAllOrNothing(t *testing.T) {
 	told(t, s, before, 0, content[:64*16])
 }
 
+// P14.3 (V1): the world behind a request that is refused is the one ahead of it, device by device, dead and bad ones too.
+func TestRefusedWorld(t *testing.T) {
+	const text = "device d0 2;device d 2;device d2 6;journal j 256;volume v=linear(concat(linear(d,0,2),linear(d2,0,1)),0,3);export v"
+	for _, c := range []struct {
+		end  string
+		r    api.Request
+		want api.Errno
+	}{
+		{";", read(3, 1), api.ErrArg},
+		{";", read(0, 17), api.ErrArg},
+		{";", read(-1, 0), api.ErrArg},
+		{";", trim(2, 2), api.ErrArg},
+		{";", zeroes(0, -1), api.ErrArg},
+		{";", store(2, sectors(2, 1)), api.ErrArg},
+		{";", api.Request{Cmd: api.Store, N: 1, Data: sectors(1, 1)[:63]}, api.ErrArg},
+		{";", api.Request{Cmd: api.Disc}, api.ErrArg},
+		{";", api.Request{Cmd: 5}, api.ErrArg},
+		{";", api.Request{Cmd: -1}, api.ErrArg},
+		{" readonly;", read(3, 1), api.ErrArg},
+		{" readonly;", store(0, sectors(1, 1)), api.ErrPerm},
+		{" readonly;", trim(0, 0), api.ErrPerm},
+		{" readonly;", zeroes(1, 2), api.ErrPerm},
+	} {
+		s, w, _ := laid(t, text+c.end, 4)
+		for _, w := range [][]api.Content{w, dead(w, 1), dead(w, 0, 1, 2, 3), bad(w, 1, 0, 1), bad(dead(w, 2), 3, 255)} {
+			fails(t, s, w, c.r, c.want)
+		}
+	}
+}
+
+// P14.3: the world that is told beside an error is one to go on with.
+func TestGoesOnBehindErrors(t *testing.T) {
+	s, w, content := laid(t, over("snapshot(linear(a, 0, 8), linear(b, 0, 5), 2)"), 3)
+	next := func(r api.Request, want api.Errno) {
+		t.Helper()
+		var e api.Errno
+		if w, _, e = Do(s, w, r); e != want {
+			t.Fatalf("%v of %d from %d on: %v; want %v", r.Cmd, r.N, r.At, e, want)
+		}
+	}
+	next(store(2, sectors(1, 1)), api.OK)
+	next(read(8, 1), api.ErrArg)
+	next(store(0, sectors(8, 2)), api.ErrSpace)
+	next(api.Request{Cmd: api.Disc}, api.ErrArg)
+	s.ReadOnly = true
+	next(store(2, sectors(1, 2)), api.ErrPerm)
+	s.ReadOnly = false
+	told(t, s, w, 0, slices.Concat(content[:64*2], sectors(1, 1), content[64*3:]))
+	next(store(3, sectors(1, 3)), api.OK)
+	told(t, s, w, 0, slices.Concat(content[:64*2], sectors(1, 1), sectors(1, 3), content[64*4:]))
+}
+
 // Rule 4: what is handed in is neither kept nor written into, and what is told is memory of its own.
 func TestMemory(t *testing.T) {
 	for _, expr := range kinds {
@@ -1296,7 +1334,7 @@ func TestMisshapenWorlds(t *testing.T) {
 func TestNoStack(t *testing.T) {
 	for _, cmd := range []api.Cmd{api.Read, api.Store, api.Trim, api.Zeroes, api.Disc} {
 		for _, s := range []api.Stack{{}, {Export: -1}, {Export: 1}} {
-			refuses(t, s, nil, api.Request{Cmd: cmd, N: 1, Data: sectors(1, 1)}, api.ErrArg)
+			fails(t, s, nil, api.Request{Cmd: cmd, N: 1, Data: sectors(1, 1)}, api.ErrArg)
 		}
 	}
 }
